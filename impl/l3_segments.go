@@ -9,10 +9,15 @@ import (
 // MaxData limits flat data.
 const MaxData = 400
 
+// isDataUpTo reports whether a list is one of data whose numbers go up to the greatest one.
+func isDataUpTo(list []int, greatest int) bool {
+	return len(list) <= MaxData && areNumbersUpTo(list, len(list), greatest)
+}
+
 // areLengths reports whether a list cuts some data into segments.
 func areLengths(list []int) bool {
 	// How many and how great they are is checked ahead of their sum, which could overflow otherwise.
-	return len(list) <= MaxData && areNumbersUpTo(list, len(list), MaxData) && sumOf(list) <= MaxData
+	return isDataUpTo(list, MaxData) && sumOf(list) <= MaxData
 }
 
 // segmentsOf tells the segments of a list. They get no room behind them, since the next ones lie there.
@@ -54,6 +59,13 @@ func scanNumbers(list []int) {
 	for i, n := range list {
 		list[i] = sum
 		sum = addNumbers(sum, n)
+	}
+}
+
+// countUp puts the numbers from 0 on in a list.
+func countUp(list []int) {
+	for i := range list {
+		list[i] = i
 	}
 }
 
@@ -137,9 +149,7 @@ func CountUp(lengths []int) ([]int, bool) {
 	}
 	counted := make([]int, sumOf(lengths))
 	for segment := range segmentsOf(lengths, counted) {
-		for i := range segment {
-			segment[i] = i
-		}
+		countUp(segment)
 	}
 	return counted, true
 }
