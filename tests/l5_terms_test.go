@@ -415,9 +415,19 @@ func TestLoopsOfEachDepth(t *testing.T) {
 	}
 }
 
-func TestDepthsOfLoops(t *testing.T) {
-	for s, want := range map[string]int{
-		// Depths that would be too great.
+// expectDepths checks the depths of terms.
+func expectDepths(t *testing.T, depths map[string]int) {
+	t.Helper()
+	for s, want := range depths {
+		if !impl.TermValid(s) {
+			t.Errorf("%q is not taken as a term", s)
+		}
+		expectDepth(t, s, want)
+	}
+}
+
+func TestDepthsThatWouldBeTooGreat(t *testing.T) {
+	expectDepths(t, map[string]int{
 		"[x:a>b]":                    3,
 		"[x:b>b]":                    3,
 		"[y:[x:a>b]>y]":              3,
@@ -444,7 +454,11 @@ func TestDepthsOfLoops(t *testing.T) {
 		"{y:[x:a>b]>SCy}":            3,
 		"[y:a>{x:b>1}]":              3,
 		"[y:a>[z:a>{x:b>1}]]":        -1,
-		// Loops over what has no parts.
+	})
+}
+
+func TestLoopsOverWhatHasNoParts(t *testing.T) {
+	expectDepths(t, map[string]int{
 		"[x:1>1]":             -1,
 		"{x:1>1}":             -1,
 		"[x:Sa>1]":            -1,
@@ -452,7 +466,11 @@ func TestDepthsOfLoops(t *testing.T) {
 		"[x:b>[y:x>1]]":       2,
 		"[x:b>[y:x>y]]":       2,
 		"[x:b>[y:x>[z:y>1]]]": -1,
-		// The same variable is bound twice.
+	})
+}
+
+func TestVariablesThatAreBoundTwice(t *testing.T) {
+	expectDepths(t, map[string]int{
 		"[x:b>[x:x>x]]":              2,
 		"[x:b>[x:x>Sx]]":             -1,
 		"[x:b>[x:x>(x+1)]]":          2,
@@ -474,7 +492,11 @@ func TestDepthsOfLoops(t *testing.T) {
 		"(S[x:b>Sx]+S[x:a>x])":       0,
 		"(S[x:b>Sx]+S[x:a>Sx])":      -1,
 		"(S[x:a>x]+x)":               -1,
-		// A variable is bound in the second part alone.
+	})
+}
+
+func TestVariablesAreBoundInTheSecondPartAlone(t *testing.T) {
+	expectDepths(t, map[string]int{
 		"[x:x>1]":             -1,
 		"{x:x>1}":             -1,
 		"[x:b>[y:y>1]]":       -1,
@@ -483,7 +505,11 @@ func TestDepthsOfLoops(t *testing.T) {
 		"[x:b>[y:a>(y+Sx)]]":  2,
 		"[x:b>[y:a>(x+y)]]":   -1,
 		"[x:b>[y:Rx>(y+Sx)]]": 2,
-		// Free ones, also where they make no difference.
+	})
+}
+
+func TestFreeVariablesHaveNoDepth(t *testing.T) {
+	expectDepths(t, map[string]int{
 		"x":             -1,
 		"Nx":            -1,
 		"[x:a>y]":       -1,
@@ -493,12 +519,7 @@ func TestDepthsOfLoops(t *testing.T) {
 		"(z+1)":         -1,
 		"[x:b>[y:a>z]]": -1,
 		"v":             -1,
-	} {
-		if !impl.TermValid(s) {
-			t.Errorf("%q is not taken as a term", s)
-		}
-		expectDepth(t, s, want)
-	}
+	})
 }
 
 func TestFreeVars(t *testing.T) {
@@ -535,8 +556,18 @@ func TestFreeVars(t *testing.T) {
 	}
 }
 
+// A replacing is a call of ReplaceVar and what it returns.
+type replacing struct{ s, v, u, want string }
+
+func expectReplacings(t *testing.T, list []replacing) {
+	t.Helper()
+	for _, c := range list {
+		expectReplaced(t, c.s, c.v, c.u, c.want)
+	}
+}
+
 func TestReplaceVar(t *testing.T) {
-	for _, c := range []struct{ s, v, u, want string }{
+	expectReplacings(t, []replacing{
 		{"a", "a", "b", "b"},
 		{"a", "a", "Rb", "Rb"},
 		{"a", "a", "a", "a"},
@@ -548,7 +579,11 @@ func TestReplaceVar(t *testing.T) {
 		{"[x:a>(x+y)]", "a", "I3", "[x:I3>(x+y)]"},
 		{"[x:a>(x+y)]", "y", "3", "[x:a>(x+3)]"},
 		{"{x:a>(x+y)}", "y", "Sz", "{x:a>(x+Sz)}"},
-		// v is bound in t but stands in s.
+	})
+}
+
+func TestReplaceVarThatIsBoundInTheSecondPart(t *testing.T) {
+	expectReplacings(t, []replacing{
 		{"[x:x>(x+y)]", "x", "a", "[x:a>(x+y)]"},
 		{"[x:x>x]", "x", "y", "[x:y>x]"},
 		{"[x:x>x]", "x", "x", "[x:x>x]"},
@@ -561,7 +596,11 @@ func TestReplaceVar(t *testing.T) {
 		{"[x:x>[x:x>x]]", "x", "1", "[x:1>[x:x>x]]"},
 		{"[x:[x:x>x]>x]", "x", "1", "[x:[x:1>x]>x]"},
 		{"[y:x>[x:x>y]]", "x", "1", "[y:1>[x:1>y]]"},
-		// A variable of u would be bound where u comes in.
+	})
+}
+
+func TestReplaceVarByWhatWouldBeBound(t *testing.T) {
+	expectReplacings(t, []replacing{
 		{"[x:a>(x+y)]", "y", "x", ""},
 		{"[x:a>y]", "y", "Nx", ""},
 		{"{x:a>y}", "y", "x", ""},
@@ -581,7 +620,11 @@ func TestReplaceVar(t *testing.T) {
 		{"[x:x>[y:a>x]]", "x", "y", "[x:y>[y:a>x]]"},
 		{"[y:x>[x:a>x]]", "x", "y", "[y:y>[x:a>x]]"},
 		{"[y:a>([x:a>x]+x)]", "x", "y", ""},
-		// It would be bound only where v does not stand, or is bound in u itself.
+	})
+}
+
+func TestReplaceVarByWhatIsBoundElsewhere(t *testing.T) {
+	expectReplacings(t, []replacing{
 		{"[x:a>x]", "y", "x", "[x:a>x]"},
 		{"[x:y>x]", "y", "x", "[x:x>x]"},
 		{"([x:a>x]+y)", "y", "x", "([x:a>x]+x)"},
@@ -593,13 +636,15 @@ func TestReplaceVar(t *testing.T) {
 		{"[x:a>[y:x>(y+w)]]", "w", "z", "[x:a>[y:x>(y+z)]]"},
 		{"[x:a>y]", "y", "y", "[x:a>y]"},
 		{"[y:a>y]", "y", "y", "[y:a>y]"},
-		// No term, or no variable.
+	})
+}
+
+func TestReplaceNoTermOrNoVariable(t *testing.T) {
+	expectReplacings(t, []replacing{
 		{"q", "a", "a", ""}, {"a", "a", "q", ""}, {"", "a", "a", ""}, {"a", "a", "", ""}, {"ab", "a", "1", ""}, {"1", "a", "ab", ""}, {"[a:b>1]", "b", "a", ""}, {"b", "b", "[a:b>1]", ""},
 		{"Sa", "3", "a", ""}, {"3", "3", "4", ""}, {"Sa", "S", "a", ""}, {"(a+b)", "+", "a", ""}, {"Sa", "", "a", ""}, {"Sa", "aa", "a", ""}, {"Sa", "ab", "a", ""}, {"Sa", "a ", "a", ""}, {"Sa", " a", "a", ""},
 		{"Sa", "Sa", "a", ""}, {"Sa", "c", "a", ""}, {"Sa", "u", "a", ""}, {"Sa", "A", "a", ""}, {"Sa", "`", "a", ""}, {"Sa", "{", "a", ""}, {"[x:a>x]", "[", "a", ""}, {"Sa", "\x00", "a", ""}, {"Sa", "a\x00", "a", ""}, {"Sa", "abvwxyz", "a", ""}, {"Sa", "xy", "a", ""},
-	} {
-		expectReplaced(t, c.s, c.v, c.u, c.want)
-	}
+	})
 }
 
 func TestVariablesThatMayBeReplaced(t *testing.T) {
@@ -708,7 +753,7 @@ func TestReplacingToTheLimit(t *testing.T) {
 	}
 	pairs := strings.Repeat("(x+", 12)
 	ends := strings.Repeat(")", 12)
-	for _, c := range []struct{ s, v, u, want string }{
+	expectReplacings(t, []replacing{
 		{pairs + "1" + ends, "x", "a", strings.Repeat("(a+", 12) + "1" + ends},
 		{pairs + "1" + ends, "x", "Ra", strings.Repeat("(Ra+", 12) + "1" + ends},
 		{pairs + "1" + ends, "x", "(a+b)", ""},
@@ -722,9 +767,7 @@ func TestReplacingToTheLimit(t *testing.T) {
 		{"N(a+a)", "a", strings.Repeat("N", 37) + "b", "N(" + strings.Repeat("N", 37) + "b+" + strings.Repeat("N", 37) + "b)"},
 		{"NNN(a+a)", "a", strings.Repeat("N", 37) + "b", ""},
 		{"NN(a+a)", "a", strings.Repeat("N", 37) + "b", ""},
-	} {
-		expectReplaced(t, c.s, c.v, c.u, c.want)
-	}
+	})
 }
 
 // termPattern is a regular expression for the terms in which brackets lie in at most so many others, but for the limit.
@@ -898,21 +941,22 @@ func randomOfDepth(source *rand.Rand, s scope, depth int, size int) picture {
 	return choices[source.Intn(len(choices))]()
 }
 
-// simplestOfDepth returns a variable of a depth, or else one of the shortest terms.
+// simplestOfDepth returns a digit or variable of a depth, or else one of the shortest terms.
 func simplestOfDepth(source *rand.Rand, s scope, depth int) picture {
-	for name, d := range s {
-		if d == depth {
-			return leaf(name)
+	signs := ""
+	if depth == 0 {
+		signs = "059"
+	}
+	// In a fixed order, since that of the map would make other terms in each run.
+	for _, name := range strings.Split(anyVariable, "") {
+		if d, ok := s[name]; ok && d == depth {
+			signs += name
 		}
 	}
-	switch depth {
-	case 0:
-		return leaf(string("0123456789"[source.Intn(10)]))
-	case 1, 2:
-		return leaf(string("ab"[depth-1])) // Never bound, and in every scope.
-	default:
+	if signs == "" {
 		return looped("[", "z", leaf("a"), leaf("b"))
 	}
+	return leaf(string(signs[source.Intn(len(signs))]))
 }
 
 func TestTermsMadeToHaveADepth(t *testing.T) {
