@@ -77,6 +77,17 @@ func countFlag(count int, flag int) int {
 	return count + 1
 }
 
+// repeatEach returns each element of a list as often as its segment is long.
+func repeatEach[T any](lengths []int, list []T) []T {
+	var repeated []T
+	for i, length := range lengths {
+		for range length {
+			repeated = append(repeated, list[i])
+		}
+	}
+	return repeated
+}
+
 // SegmentsValid reports whether lengths are those of data.
 func SegmentsValid(lengths []int, data []int) bool {
 	return areLengths(lengths) && areNumbersUpTo(data, sumOf(lengths), Modulus-1)
@@ -133,13 +144,7 @@ func SpreadValues(lengths []int, values []int) ([]int, bool) {
 	if !areLengths(lengths) || !areNumbersUpTo(values, len(lengths), Modulus-1) {
 		return nil, false
 	}
-	var spread []int
-	for i, length := range lengths {
-		for range length {
-			spread = append(spread, values[i])
-		}
-	}
-	return spread, true
+	return repeatEach(lengths, values), true
 }
 
 // CountUp returns the numbers from 0 on in each segment.

@@ -28,11 +28,12 @@ func emptyTree(count int) tree {
 	return tree{depth: 2, parts: slices.Repeat([]tree{{depth: 1}}, count)}
 }
 
-// layout returns the layout of an array, row by row.
-func (a tree) layout() impl.Layout {
+func (a tree) layout() impl.Layout { return layoutOfRow([]tree{a}, a.depth) }
+
+// layoutOfRow returns the layout of arrays of a depth that lie one behind another, row by row.
+func layoutOfRow(row []tree, depth int) impl.Layout {
 	l := impl.Layout{}
-	row := []tree{a}
-	for range a.depth {
+	for range depth {
 		lengths := []int{}
 		next := []tree{}
 		for _, one := range row {

@@ -228,6 +228,7 @@ func expectRan(t *testing.T, s, a, b string, want ran) {
 	if depth := impl.DepthOfTerm(s); want.why == "" && !impl.ArrayValid(want.text, depth) {
 		t.Errorf("%q gives %q, which is not of the depth %d", s, want.text, depth)
 	}
+	expectFlat(t, s, a, b, want)
 }
 
 // expectRun checks a term on pictures of arrays, and returns what it is to give.
@@ -840,10 +841,11 @@ func fewLists(source *rand.Rand) tree {
 	return b
 }
 
-func TestTermsGiveArraysOfTheirDepth(t *testing.T) {
-	source := rand.New(rand.NewSource(18))
+// expectRandomRuns checks terms made to have each depth, with each reason among what they end with, and for each of them what more does.
+func expectRandomRuns(t *testing.T, source *rand.Rand, rounds int, more func(p picture, a, b tree, want ran)) {
+	t.Helper()
 	reasons := map[string]int{}
-	for round := range 12000 {
+	for round := range rounds {
 		p := randomOfDepth(source, scope{"a": 1, "b": 2}, round%4, 1+source.Intn(60))
 		a, b := fewNumbers(source), fewLists(source)
 		if round%20 < 4 {
@@ -851,13 +853,20 @@ func TestTermsGiveArraysOfTheirDepth(t *testing.T) {
 		}
 		want := expectRun(t, p, a, b)
 		reasons[want.why]++
-		expectSameAs(t, source, p, a, b, want)
+		more(p, a, b, want)
 	}
 	for _, why := range []string{"", "wrong", "work", "long"} {
-		if reasons[why] < 20 {
+		if reasons[why] < rounds/600 {
 			t.Errorf("only %d terms end with %q", reasons[why], why)
 		}
 	}
+}
+
+func TestTermsGiveArraysOfTheirDepth(t *testing.T) {
+	source := rand.New(rand.NewSource(18))
+	expectRandomRuns(t, source, 12000, func(p picture, a, b tree, want ran) {
+		expectSameAs(t, source, p, a, b, want)
+	})
 }
 
 // expectSameAs checks whether another term gives the same.
