@@ -869,19 +869,29 @@ func TestTermsGiveArraysOfTheirDepth(t *testing.T) {
 	})
 }
 
+// otherTerm returns a term that gives the same as another one by more work, or any term.
+func otherTerm(source *rand.Rand, p picture) picture {
+	if source.Intn(2) == 0 {
+		return before("R", before("R", p))
+	}
+	return randomOfDepth(source, scope{"a": 1, "b": 2}, source.Intn(4), 1+source.Intn(6))
+}
+
+// givesSame reports whether two terms give the same of two arrays, where first and second are what they give.
+func givesSame(p, q picture, first, second ran) bool {
+	depths := []int{1, 2}
+	return first.why == "" && second.why == "" && first.text == second.text && p.depth("ab", depths) == q.depth("ab", depths)
+}
+
 // expectSameAs checks whether another term gives the same.
 func expectSameAs(t *testing.T, source *rand.Rand, p picture, a, b tree, want ran) {
 	t.Helper()
-	q := randomOfDepth(source, scope{"a": 1, "b": 2}, source.Intn(4), 1+source.Intn(6))
-	if source.Intn(2) == 0 {
-		q = before("R", before("R", p))
-	}
+	q := otherTerm(source, p)
 	other, ok := q.run(a, b)
 	if !ok {
 		return
 	}
-	depths := []int{1, 2}
-	same := want.why == "" && other.why == "" && want.text == other.text && p.depth("ab", depths) == q.depth("ab", depths)
+	same := givesSame(p, q, want, other)
 	if got := impl.GivesSame(p.text(), q.text(), a.text(), b.text()); got != same {
 		t.Errorf("GivesSame(%q, %q, %q, %q) = %v", p.text(), q.text(), a.text(), b.text(), got)
 	}

@@ -661,16 +661,20 @@ func expectFlat(t *testing.T, s, a, b string, want ran) {
 		t.Errorf("WidthsOf(%q, %.99q, %.99q) = %v, %v", code, a, b, widths, ok)
 		return
 	}
-	work, width := 0, 1
-	for i, in := range instructions {
-		if in != "]" && in != "}" {
-			work += width
-		}
-		width = widths[i]
-	}
-	if work != want.work || width != 1 {
+	if work := sum(worksOf(instructions, widths)); work != want.work || widths[len(widths)-1] != 1 {
 		t.Errorf("%q has the work %d, not %d, by the widths %v", code, work, want.work, widths)
 	}
+}
+
+// worksOf returns the work of each instruction: the width behind the one ahead of it, but none for the end of a loop.
+func worksOf(instructions []string, widths []int) []int {
+	works := append([]int{1}, widths...)[:len(widths)]
+	for at, in := range instructions {
+		if in == "]" || in == "}" {
+			works[at] = 0
+		}
+	}
+	return works
 }
 
 // widths returns the width behind each instruction of a term that is evaluated once for each of some tables of variables.
